@@ -1,0 +1,114 @@
+package tests
+
+import (
+	"math"
+	"slices"
+	"testing"
+
+	"loop.example/g01364/impl"
+)
+
+// Bits that stand in several tables.
+const (
+	plusZero  = 0x00000000
+	minusZero = 0x80000000
+	least     = 0x00000001
+	lastSub   = 0x007fffff
+	firstFull = 0x00800000
+	plusOne   = 0x3f800000
+	greatest  = 0x7f7fffff
+	plusInf   = 0x7f800000
+	minusInf  = 0xff800000
+	noNumber  = 0x7fc00000
+)
+
+// num does not go through impl, so that a wrong FromBits cannot hide a wrong result.
+func num(bits uint32) float32 {
+	return math.Float32frombits(bits)
+}
+
+func bitsOf(x float32) uint32 {
+	if x != x {
+		return noNumber
+	}
+	return math.Float32bits(x)
+}
+
+func pair(re, im uint32) complex64 {
+	return complex(num(re), num(im))
+}
+
+func wantBits(t *testing.T, what string, got float32, want uint32) {
+	t.Helper()
+	if bitsOf(got) != want {
+		t.Errorf("%s: got %08x, want %08x", what, bitsOf(got), want)
+	}
+}
+
+func wantNumber(t *testing.T, what string, got, want float32) {
+	t.Helper()
+	wantBits(t, what, got, bitsOf(want))
+}
+
+func wantComplex(t *testing.T, what string, got, want complex64) {
+	t.Helper()
+	wantNumber(t, what+", real part", real(got), real(want))
+	wantNumber(t, what+", imaginary part", imag(got), imag(want))
+}
+
+func wantBool(t *testing.T, what string, got, want bool) {
+	t.Helper()
+	if got != want {
+		t.Errorf("%s: got %v, want %v", what, got, want)
+	}
+}
+
+func wantText(t *testing.T, what, got, want string) {
+	t.Helper()
+	if got != want {
+		t.Errorf("%s: got %q, want %q", what, got, want)
+	}
+}
+
+func wantInt(t *testing.T, what string, got, want int64) {
+	t.Helper()
+	if got != want {
+		t.Errorf("%s: got %d, want %d", what, got, want)
+	}
+}
+
+func sameNumbers(a, b []float32) bool {
+	return slices.EqualFunc(a, b, func(x, y float32) bool { return bitsOf(x) == bitsOf(y) })
+}
+
+func sameComplexes(a, b []complex64) bool {
+	return slices.EqualFunc(a, b, func(x, y complex64) bool {
+		return bitsOf(real(x)) == bitsOf(real(y)) && bitsOf(imag(x)) == bitsOf(imag(y))
+	})
+}
+
+// strangeBits are those of zeros, subnormal numbers, ones at limits, infinities and not-a-numbers.
+func strangeBits() []uint32 {
+	return []uint32{
+		plusZero, minusZero, least, 0x80000001, lastSub, 0x807fffff, firstFull, 0x80800000,
+		plusOne, 0xbf800000, 0x3e800000, 0xbe800000, 0x3f000000, 0xbf000000, 0x3f400000, 0xbf400000,
+		0x3eaaaaab, 0x40490fdb, 0xa1000000, 0x43480000, 0x43480001, 0xc3480000, 0xc3480001,
+		0x4b7fffff, 0x4b800000, 0x597fffff, 0x59800000, 0xd9800000,
+		greatest, 0xff7fffff, plusInf, minusInf, noNumber, 0xffc00000, 0x7f800001, 0xffffffff,
+	}
+}
+
+func repeatedNumbers(x float32, count int) []float32 {
+	return slices.Repeat([]float32{x}, count)
+}
+
+func repeatedComplexes(x complex64, count int) []complex64 {
+	return slices.Repeat([]complex64{x}, count)
+}
+
+func TestConstants(t *testing.T) {
+	wantInt(t, "MaxNumbers", impl.MaxNumbers, 256)
+	wantInt(t, "MaxValue", impl.MaxValue, 1000000000000000)
+	wantInt(t, "MaxItems", impl.MaxItems, 64)
+	wantInt(t, "CheckSize", impl.CheckSize, 65003)
+}
