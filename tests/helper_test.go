@@ -1,8 +1,10 @@
 package tests
 
 import (
+	"fmt"
 	"math"
 	"slices"
+	"strings"
 	"testing"
 
 	"loop.example/g01364/impl"
@@ -106,9 +108,90 @@ func repeatedComplexes(x complex64, count int) []complex64 {
 	return slices.Repeat([]complex64{x}, count)
 }
 
+// hex returns the bits of numbers, with a comma between two.
+func hex(list ...float32) string {
+	var items []string
+	for _, x := range list {
+		items = append(items, fmt.Sprintf("%08x", bitsOf(x)))
+	}
+	return strings.Join(items, ",")
+}
+
+// outcome returns text for a call that succeeds, and "no" for one that fails as it must.
+func outcome(text string, zero, ok bool) string {
+	if ok {
+		return text
+	}
+	if !zero {
+		return "no, but " + text
+	}
+	return "no"
+}
+
+func toldNumber(x float32, ok bool) string {
+	return outcome(hex(x), bitsOf(x) == plusZero, ok)
+}
+
+func toldRow(row []float32, ok bool) string {
+	return outcome(hex(row...), len(row) == 0, ok)
+}
+
+func toldTable(t impl.Table, ok bool) string {
+	zero := t.Rows == 0 && t.Columns == 0 && len(t.Chances) == 0
+	return outcome(fmt.Sprintf("%dx%d:%s", t.Rows, t.Columns, hex(t.Chances...)), zero, ok)
+}
+
+func toldInt(n int64, ok bool) string {
+	return outcome(fmt.Sprint(n), n == 0, ok)
+}
+
+func toldBool(b, ok bool) string {
+	return outcome(fmt.Sprint(b), !b, ok)
+}
+
+// drawn is a small generator of numbers for tests that need many of them.
+type drawn struct{ state uint64 }
+
+// below returns a number from 0 to n - 1.
+func (d *drawn) below(n int) int {
+	d.state = d.state*6364136223846793005 + 1442695040888963407
+	return int((d.state >> 33) % uint64(n))
+}
+
+// row returns a row of n chances, some of which are 0 or small.
+func (d *drawn) row(n int) []float32 {
+	weights, sum := make([]float64, n), 0.0
+	for i := range weights {
+		weights[i] = []float64{0, 1, 2, 1e-3, 1e-12, float64(d.below(1000))}[d.below(6)]
+		sum += weights[i]
+	}
+	if sum == 0 {
+		weights[d.below(n)], sum = 1, 1
+	}
+	row := make([]float32, n)
+	for i := range row {
+		row[i] = float32(weights[i] / sum)
+	}
+	return row
+}
+
+// table returns a table of chances.
+func (d *drawn) table() impl.Table {
+	rows, columns := 1+d.below(8), 1+d.below(8)
+	return impl.Table{Rows: int64(rows), Columns: int64(columns), Chances: d.row(rows * columns)}
+}
+
+func near(x, y float32) bool {
+	return math.Abs(float64(x)-float64(y)) < 1e-5
+}
+
 func TestConstants(t *testing.T) {
 	wantInt(t, "MaxNumbers", impl.MaxNumbers, 256)
 	wantInt(t, "MaxValue", impl.MaxValue, 1000000000000000)
 	wantInt(t, "MaxItems", impl.MaxItems, 64)
 	wantInt(t, "CheckSize", impl.CheckSize, 65003)
+	wantInt(t, "MaxChances", impl.MaxChances, 32)
+	wantInt(t, "MaxSide", impl.MaxSide, 8)
+	wantInt(t, "MaxDrawn", impl.MaxDrawn, 64)
+	wantInt(t, "MaxWorkers", impl.MaxWorkers, 8)
 }

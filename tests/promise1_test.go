@@ -38,6 +38,8 @@ func resultText(results ...any) string {
 			for _, x := range v {
 				fmt.Fprintf(&b, "%08x%08x,", bitsOf(real(x)), bitsOf(imag(x)))
 			}
+		case impl.Table:
+			b.WriteString(toldTable(v, true))
 		default:
 			fmt.Fprintf(&b, "%v ", v)
 		}
@@ -122,22 +124,27 @@ func strangeArguments(i int) arguments {
 	return a
 }
 
-func TestPromise1ReturnsAndRepeats(t *testing.T) {
-	count := len(strangeBits()) * len(strangeBits())
+// wantRepeats calls functions with count arguments, twice each, and with others between.
+func wantRepeats(t *testing.T, count int, call func(i int) []string) {
+	t.Helper()
 	for i := range count {
-		first := callAll(strangeArguments(i))
-		again := callAll(strangeArguments(i))
-		if !slices.Equal(first, again) {
+		first := call(i)
+		if again := call(i); !slices.Equal(first, again) {
 			t.Fatalf("arguments %d: got %q, and then %q", i, first, again)
 		}
 	}
 	for i := count - 1; i >= 0; i -= 17 {
-		first := callAll(strangeArguments(i))
-		callAll(strangeArguments(i + 1))
-		if again := callAll(strangeArguments(i)); !slices.Equal(first, again) {
+		first := call(i)
+		call(i + 1)
+		if again := call(i); !slices.Equal(first, again) {
 			t.Fatalf("arguments %d, after others: got %q, and then %q", i, first, again)
 		}
 	}
+}
+
+func TestPromise1ReturnsAndRepeats(t *testing.T) {
+	count := len(strangeBits()) * len(strangeBits())
+	wantRepeats(t, count, func(i int) []string { return callAll(strangeArguments(i)) })
 }
 
 // roomy returns a list with further numbers in its unused capacity.
