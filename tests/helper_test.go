@@ -194,4 +194,5 @@ func TestConstants(t *testing.T) {
 	wantInt(t, "MaxSide", impl.MaxSide, 8)
 	wantInt(t, "MaxDrawn", impl.MaxDrawn, 64)
 	wantInt(t, "MaxWorkers", impl.MaxWorkers, 8)
+	wantInt(t, "MaxRounds", impl.MaxRounds, 200)
 }
