@@ -195,4 +195,7 @@ func TestConstants(t *testing.T) {
 	wantInt(t, "MaxDrawn", impl.MaxDrawn, 64)
 	wantInt(t, "MaxWorkers", impl.MaxWorkers, 8)
 	wantInt(t, "MaxRounds", impl.MaxRounds, 200)
+	wantInt(t, "MaxLetters", impl.MaxLetters, 16)
+	wantInt(t, "MaxLong", impl.MaxLong, 32)
+	wantInt(t, "MaxBits", impl.MaxBits, 512)
 }
