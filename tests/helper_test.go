@@ -198,4 +198,9 @@ func TestConstants(t *testing.T) {
 	wantInt(t, "MaxLetters", impl.MaxLetters, 16)
 	wantInt(t, "MaxLong", impl.MaxLong, 32)
 	wantInt(t, "MaxBits", impl.MaxBits, 512)
+	wantInt(t, "MaxSigns", impl.MaxSigns, 16)
+	wantInt(t, "MaxText", impl.MaxText, 64)
+	wantInt(t, "MaxTotal", impl.MaxTotal, 16384)
+	wantInt(t, "MaxTold", impl.MaxTold, 1024)
+	wantInt(t, "MaxLooks", impl.MaxLooks, 4)
 }
