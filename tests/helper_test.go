@@ -203,4 +203,6 @@ func TestConstants(t *testing.T) {
 	wantInt(t, "MaxTotal", impl.MaxTotal, 16384)
 	wantInt(t, "MaxTold", impl.MaxTold, 1024)
 	wantInt(t, "MaxLooks", impl.MaxLooks, 4)
+	wantInt(t, "MaxWide", impl.MaxWide, 16)
+	wantInt(t, "MaxParityRows", impl.MaxParityRows, 8)
 }

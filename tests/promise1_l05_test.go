@@ -177,24 +177,8 @@ func TestPromise1TextsReturnAndRepeat(t *testing.T) {
 	wantRepeats(t, 2000, func(i int) []string { return callTexts(strangeTextsAt(i)) })
 }
 
-// Without arguments that each function can take, the other tests of promise 1 would tell little.
 func TestPromise1TextsTakeArguments(t *testing.T) {
-	successes := make([]int, len(callTexts(textArguments{})))
-	for i := range 2000 {
-		for k, text := range callTexts(strangeTextsAt(i)) {
-			if text != "no" {
-				successes[k]++
-			}
-			if strings.HasPrefix(text, "no, but") {
-				t.Errorf("function %d fails, but returns %s", k, text)
-			}
-		}
-	}
-	for k, count := range successes {
-		if count < 300 || k > 0 && count > 1990 {
-			t.Errorf("function %d succeeds %d times", k, count)
-		}
-	}
+	wantTaken(t, 2000, func(i int) []string { return callTexts(strangeTextsAt(i)) })
 }
 
 func TestPromise1TextsDifferByWorkersInNothing(t *testing.T) {

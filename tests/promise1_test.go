@@ -142,6 +142,28 @@ func wantRepeats(t *testing.T, count int, call func(i int) []string) {
 	}
 }
 
+// wantTaken calls functions with count arguments, and wants each of them to succeed often, and all but the first one to fail sometimes.
+// Without such arguments, the other tests of promise 1 would tell little.
+func wantTaken(t *testing.T, count int, call func(i int) []string) {
+	t.Helper()
+	successes := make([]int, len(call(0)))
+	for i := range count {
+		for k, text := range call(i) {
+			if text != "no" {
+				successes[k]++
+			}
+			if strings.HasPrefix(text, "no, but") {
+				t.Errorf("function %d fails, but returns %s", k, text)
+			}
+		}
+	}
+	for k, times := range successes {
+		if times < count*3/20 || k > 0 && times > count-10 {
+			t.Errorf("function %d succeeds %d times", k, times)
+		}
+	}
+}
+
 func TestPromise1ReturnsAndRepeats(t *testing.T) {
 	count := len(strangeBits()) * len(strangeBits())
 	wantRepeats(t, count, func(i int) []string { return callAll(strangeArguments(i)) })
