@@ -205,4 +205,11 @@ func TestConstants(t *testing.T) {
 	wantInt(t, "MaxLooks", impl.MaxLooks, 4)
 	wantInt(t, "MaxWide", impl.MaxWide, 16)
 	wantInt(t, "MaxParityRows", impl.MaxParityRows, 8)
+	wantInt(t, "MaxMemory", impl.MaxMemory, 4)
+	wantInt(t, "MaxSent", impl.MaxSent, 40)
+	wantInt(t, "MaxSoft", impl.MaxSoft, 160)
+	wantInt(t, "MaxNodes", impl.MaxNodes, 32)
+	wantInt(t, "MaxPolar", impl.MaxPolar, 5)
+	wantInt(t, "MaxDrops", impl.MaxDrops, 32)
+	wantInt(t, "MaxSaved", impl.MaxSaved, 8)
 }
