@@ -212,4 +212,5 @@ func TestConstants(t *testing.T) {
 	wantInt(t, "MaxPolar", impl.MaxPolar, 5)
 	wantInt(t, "MaxDrops", impl.MaxDrops, 32)
 	wantInt(t, "MaxSaved", impl.MaxSaved, 8)
+	wantInt(t, "MaxScript", impl.MaxScript, 16000)
 }

@@ -315,6 +315,34 @@ func memoryOf[T any](list []T, with T) resultMemory {
 	return resultMemory{func() string { return resultText(list) }, func() { spoil(list, with) }}
 }
 
+// tellAll tells all results but one.
+func tellAll(all []resultMemory, but int) string {
+	var b strings.Builder
+	for i, memory := range all {
+		if i != but {
+			fmt.Fprintln(&b, memory.told())
+		}
+	}
+	return b.String()
+}
+
+// wantNewMemory writes over each result, and wants the other ones, the arguments, and the results of further calls to stay as they were.
+func wantNewMemory(t *testing.T, results func() []resultMemory, arguments func() string) {
+	t.Helper()
+	before, told := arguments(), tellAll(results(), -1)
+	for i := range results() {
+		all := results()
+		if all[i].told() == "[] " || all[i].told() == "" {
+			t.Errorf("result %d is empty", i)
+		}
+		others := tellAll(all, i)
+		all[i].spoil()
+		wantText(t, fmt.Sprint("results after result ", i, " is written over"), tellAll(all, i), others)
+		wantText(t, fmt.Sprint("arguments after result ", i, " is written over"), arguments(), before)
+		wantText(t, fmt.Sprint("results again after result ", i, " is written over"), tellAll(results(), -1), told)
+	}
+}
+
 // softResults returns the memory of all lists that functions of chapter 7 return of valid arguments.
 func softResults(a *softArguments) []resultMemory {
 	var all []resultMemory
@@ -371,26 +399,5 @@ func TestPromise1SoftResultsAreNew(t *testing.T) {
 	}
 	a.one, _ = impl.StoreSaved(a.s)
 	a.all = a.one + a.one
-	before := a.whole()
-	tellAll := func(all []resultMemory, but int) string {
-		var b strings.Builder
-		for i, memory := range all {
-			if i != but {
-				fmt.Fprintln(&b, memory.told())
-			}
-		}
-		return b.String()
-	}
-	told := tellAll(softResults(&a), -1)
-	for i := range softResults(&a) {
-		all := softResults(&a)
-		if all[i].told() == "[] " || all[i].told() == "" {
-			t.Errorf("result %d is empty", i)
-		}
-		others := tellAll(all, i)
-		all[i].spoil()
-		wantText(t, fmt.Sprint("results after result ", i, " is written over"), tellAll(all, i), others)
-		wantText(t, fmt.Sprint("arguments after result ", i, " is written over"), a.whole(), before)
-		wantText(t, fmt.Sprint("results again after result ", i, " is written over"), tellAll(softResults(&a), -1), told)
-	}
+	wantNewMemory(t, func() []resultMemory { return softResults(&a) }, a.whole)
 }
